@@ -3,6 +3,7 @@ package noted
 
 import (
 	"sojourn/api"
+	"sojourn/ints"
 	"sojourn/table"
 )
 
@@ -24,23 +25,11 @@ func (a *Answers) Len() int { return a.table.Len() }
 // Append puts the bytes of the answers behind out, as chapter 12 tells them: how many there are, and Book, Kind and the answer of each.
 func (a *Answers) Append(out []byte) []byte {
 	keys := a.table.Keys()
-	out = appendInts(out, len(keys))
+	out = ints.Append(out, len(keys))
 	for _, key := range keys {
 		book, kind := key[0], key[1]
 		answer, _ := a.table.Find(api.Op{Book: book, Kind: kind})
-		out = appendInts(out, book, kind, answer)
-	}
-	return out
-}
-
-// appendInts puts numbers, none of which is below 0, behind out, each as chapter 1's Int. It is written here once more: chapters 12 and 13 do not lean on pack.
-func appendInts(out []byte, numbers ...int) []byte {
-	for _, v := range numbers {
-		u := uint64(v) << 1
-		for ; u > 127; u >>= 7 {
-			out = append(out, byte(u)|128)
-		}
-		out = append(out, byte(u))
+		out = ints.Append(out, book, kind, answer)
 	}
 	return out
 }
